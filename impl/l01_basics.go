@@ -1,0 +1,90 @@
+package impl
+
+import (
+	"strconv"
+	"strings"
+)
+
+// Codes.
+const (
+	OK = iota
+	ErrInvalid
+	ErrRange
+	ErrNotFound
+	ErrExists
+	ErrFull
+	ErrState
+	ErrSyntax
+	ErrFormat
+	ErrClash
+	ErrLoose
+)
+
+// Limits.
+const (
+	MaxName    = 12
+	maxDecimal = 999999999999999999
+)
+
+// CodeName returns the name of a code.
+func CodeName(code int64) string {
+	names := [...]string{
+		"ok", "invalid", "range", "not-found", "exists", "full",
+		"state", "syntax", "format", "clash", "loose",
+	}
+	if !isBetween(code, 0, int64(len(names))-1) {
+		return ""
+	}
+	return names[code]
+}
+
+// IsName reports whether s is a name.
+func IsName(s string) bool {
+	if s == "" || len(s) > MaxName {
+		return false
+	}
+	for i, r := range s {
+		if !isSmallLetter(r) && (i == 0 || !isDigit(r) && r != '-') {
+			return false
+		}
+	}
+	return true
+}
+
+// Decimal returns the decimal form of a number.
+func Decimal(n int64) string { return strconv.FormatInt(n, 10) }
+
+// ReadDecimal returns the number with a decimal form.
+func ReadDecimal(s string) (int64, bool) {
+	n, err := strconv.ParseInt(s, 10, 64)
+	if err != nil || !isBetween(n, -maxDecimal, maxDecimal) {
+		return 0, false
+	}
+	// ParseInt takes a plus sign, leading zeros and -0 as well, which Decimal never returns.
+	if Decimal(n) != s {
+		return 0, false
+	}
+	return n, true
+}
+
+// SplitWords returns the parts of a text without blanks.
+func SplitWords(s string) []string {
+	var words []string
+	var word strings.Builder
+	// Bytes, not runes: a word keeps bytes that are no UTF-8.
+	for i := range len(s) + 1 {
+		if i < len(s) && s[i] != ' ' {
+			word.WriteByte(s[i])
+		} else if word.Len() > 0 {
+			words = append(words, word.String())
+			word.Reset()
+		}
+	}
+	return words
+}
+
+func isBetween(n, low, high int64) bool { return low <= n && n <= high }
+
+func isSmallLetter(r rune) bool { return 'a' <= r && r <= 'z' }
+
+func isDigit(r rune) bool { return '0' <= r && r <= '9' }

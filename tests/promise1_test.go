@@ -1,0 +1,221 @@
+package tests
+
+import (
+	"fmt"
+	"math"
+	"reflect"
+	"slices"
+	"strings"
+	"testing"
+
+	"loop.example/g01064/impl"
+)
+
+// landed names the functions of the chapters that have landed; TestPurity calls each of them with all combinations of
+// the values that samples has for the types of its parameters.
+func landed() map[string]any {
+	return map[string]any{
+		"CodeName": impl.CodeName, "IsName": impl.IsName, "Decimal": impl.Decimal, "ReadDecimal": impl.ReadDecimal,
+		"SplitWords": impl.SplitWords,
+
+		"ValidRods": impl.ValidRods, "ThickAt": impl.ThickAt, "LengthWith": impl.LengthWith, "GradeOf": impl.GradeOf,
+		"CountGrades": impl.CountGrades, "LongestFirst": impl.LongestFirst, "MostAlike": impl.MostAlike,
+		"RodsBetween": impl.RodsBetween, "CutTip": impl.CutTip, "RodText": impl.RodText, "ReadRod": impl.ReadRod,
+	}
+}
+
+func samples() map[reflect.Type][]any {
+	numbers := []any{}
+	for _, n := range []int64{math.MinInt64, math.MinInt64 + 1, -1000, -1, 0, 1, 2, 10, 11, 99, 100, 101, 300, 301, 500, 999, 1000, 3000, 3001, 1 << 62, math.MaxInt64} {
+		numbers = append(numbers, n)
+	}
+	texts := []any{}
+	for _, s := range []string{
+		"", " ", "   ", "a", "rod-3", "Rod", "a b  c ", "0", "-0", "42", "-42", "007", "999999999999999999", "9223372036854775808", "-9223372036854775808",
+		"1000 mm 80-30", "1000 mm 80--30", " mm -", "1000 mm", "99 mm 80-30", "\xff \xfe", "ä ö", "\x00", strings.Repeat("9 ", 2000),
+	} {
+		texts = append(texts, s)
+	}
+	rods := []any{}
+	lists := []any{[]impl.Rod(nil), slices.Repeat([]impl.Rod{{Length: 500, Butt: 50, Tip: 20}}, 20), slices.Repeat([]impl.Rod{{Length: 500, Butt: 50, Tip: 20}}, 21)}
+	for _, r := range append(noRods(), someRods()[:12]...) {
+		rods = append(rods, r)
+		lists = append(lists, []impl.Rod{r}, []impl.Rod{{Length: 1000, Butt: 80, Tip: 30}, r, {Length: 2000, Butt: 90, Tip: 1}, r})
+	}
+	limits := []any{[]int64(nil), []int64{500}, []int64{100, 3000}, []int64{100, 200, 300, 400, 500, 600, 700, 800}}
+	for _, l := range badLimits() {
+		limits = append(limits, l)
+	}
+	return map[reflect.Type][]any{
+		reflect.TypeFor[int64](): numbers, reflect.TypeFor[string](): texts, reflect.TypeFor[impl.Rod](): rods,
+		reflect.TypeFor[[]impl.Rod](): lists, reflect.TypeFor[[]int64](): limits,
+	}
+}
+
+// spaced copies an argument; a slice gets unused capacity with values in it, which no function may change or tell.
+func spaced(v reflect.Value) reflect.Value {
+	if v.Kind() != reflect.Slice {
+		return v
+	}
+	n := v.Len()
+	out := reflect.MakeSlice(v.Type(), n+3, n+3)
+	reflect.Copy(out, v)
+	for i := n; i < n+3; i++ {
+		fill(out.Index(i), 250)
+	}
+	return out.Slice(0, n)
+}
+
+// fill stores a number into all parts of a value.
+func fill(v reflect.Value, n int64) {
+	switch v.Kind() {
+	case reflect.Int64:
+		v.SetInt(n)
+	case reflect.String:
+		v.SetString(fmt.Sprint("text", n))
+	case reflect.Struct:
+		for i := range v.NumField() {
+			fill(v.Field(i), n)
+		}
+	case reflect.Slice:
+		for i := range v.Len() {
+			fill(v.Index(i), n)
+		}
+	}
+}
+
+// overwrite fills all slices of a result, with their unused capacity.
+func overwrite(results []reflect.Value) {
+	for _, v := range results {
+		if v.Kind() == reflect.Slice {
+			fill(v.Slice(0, v.Cap()), 777)
+		}
+	}
+}
+
+// written tells values with the unused capacity of slices.
+func written(values []reflect.Value) string {
+	whole := slices.Clone(values)
+	for k, v := range whole {
+		if v.Kind() == reflect.Slice {
+			whole[k] = v.Slice(0, v.Cap())
+		}
+	}
+	return told(whole)
+}
+
+// told tells values in Go's syntax; an empty slice and a nil one, which are equivalent, are told alike.
+func told(values []reflect.Value) string {
+	var b strings.Builder
+	for k, v := range values {
+		if k > 0 {
+			b.WriteString(", ")
+		}
+		if v.Kind() == reflect.Slice && v.Len() == 0 {
+			b.WriteString("none")
+		} else {
+			fmt.Fprintf(&b, "%#v", v)
+		}
+	}
+	return b.String()
+}
+
+// combinations calls visit with each choice of one value per list.
+func combinations(lists [][]any, visit func([]reflect.Value)) {
+	choice := make([]reflect.Value, len(lists))
+	var next func(k int)
+	next = func(k int) {
+		if k == len(lists) {
+			visit(choice)
+			return
+		}
+		for _, v := range lists[k] {
+			choice[k] = reflect.ValueOf(v)
+			next(k + 1)
+		}
+	}
+	next(0)
+}
+
+// argumentsOf returns the samples for each parameter of a function.
+func argumentsOf(t *testing.T, f reflect.Type, all map[reflect.Type][]any) [][]any {
+	lists := make([][]any, f.NumIn())
+	for k := range lists {
+		lists[k] = all[f.In(k)]
+		if len(lists[k]) == 0 {
+			t.Fatalf("no samples of %v", f.In(k))
+		}
+	}
+	return lists
+}
+
+func TestPurity(t *testing.T) {
+	all := samples()
+	for name, function := range landed() {
+		f := reflect.ValueOf(function)
+		combinations(argumentsOf(t, f.Type(), all), func(choice []reflect.Value) {
+			args := make([]reflect.Value, len(choice))
+			for k, v := range choice {
+				args[k] = spaced(v)
+			}
+			before := written(args)
+			first := f.Call(args)
+			want := told(first)
+			second := f.Call(choice) // equal arguments elsewhere in memory, nil slices among them
+			if got := told(second); got != want {
+				t.Fatalf("%s(%s): first %s, then %s for equal arguments", name, before, want, got)
+			}
+			checkZeros(t, name+"("+before+")", first)
+			// Whoever overwrites a result changes neither another result, nor the arguments, nor what later calls return.
+			overwrite(second)
+			if got := told(first); got != want {
+				t.Fatalf("%s(%s): the result %s becomes %s with another one", name, before, want, got)
+			}
+			overwrite(first)
+			if after := written(args); after != before {
+				t.Fatalf("%s(%s): the arguments are %s now", name, before, after)
+			}
+			if got := told(f.Call(args)); got != want {
+				t.Fatalf("%s(%s): first %s, later %s", name, before, want, got)
+			}
+		})
+	}
+}
+
+// checkZeros checks that all results beside an error or false are zero values.
+func checkZeros(t *testing.T, call string, results []reflect.Value) {
+	last := results[len(results)-1]
+	if len(results) == 1 || last.Kind() == reflect.Bool && last.Bool() || last.Kind() == reflect.Int64 && last.Int() == impl.OK {
+		return
+	}
+	if last.Kind() == reflect.Int64 && impl.CodeName(last.Int()) == "" {
+		t.Fatalf("%s: there is no code %d", call, last.Int())
+	}
+	for _, v := range results[:len(results)-1] {
+		if !v.IsZero() && !(v.Kind() == reflect.Slice && v.Len() == 0) {
+			t.Fatalf("%s: %v beside %v", call, v, last)
+		}
+	}
+}
+
+// TestOrderOfCalls checks that no call depends on those before it: all of them once forwards, and once backwards.
+func TestOrderOfCalls(t *testing.T) {
+	all := samples()
+	var calls []func() string
+	for _, function := range landed() {
+		f := reflect.ValueOf(function)
+		combinations(argumentsOf(t, f.Type(), all), func(choice []reflect.Value) {
+			args := slices.Clone(choice)
+			calls = append(calls, func() string { return told(f.Call(args)) })
+		})
+	}
+	forwards := make([]string, len(calls))
+	for i, call := range calls {
+		forwards[i] = call()
+	}
+	for i, call := range slices.Backward(calls) {
+		if got := call(); got != forwards[i] {
+			t.Fatalf("the call %d returns %s after later ones, and %s after earlier ones", i, got, forwards[i])
+		}
+	}
+}
