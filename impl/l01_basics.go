@@ -85,6 +85,17 @@ func SplitWords(s string) []string {
 
 func isBetween(n, low, high int64) bool { return low <= n && n <= high }
 
+// areIncreasing reports whether numbers are strictly increasing ones from low to high.
+func areIncreasing(numbers []int64, low, high int64) bool {
+	for _, n := range numbers {
+		if !isBetween(n, low, high) {
+			return false
+		}
+		low = n + 1
+	}
+	return true
+}
+
 func isSmallLetter(r rune) bool { return 'a' <= r && r <= 'z' }
 
 func isDigit(r rune) bool { return '0' <= r && r <= '9' }

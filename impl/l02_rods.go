@@ -199,17 +199,7 @@ func isRod(r Rod) bool {
 }
 
 func areLimits(limits []int64) bool {
-	if len(limits) > MaxGrade {
-		return false
-	}
-	least := int64(MinRod)
-	for _, limit := range limits {
-		if !isBetween(limit, least, MaxRod) {
-			return false
-		}
-		least = limit + 1
-	}
-	return true
+	return len(limits) <= MaxGrade && areIncreasing(limits, MinRod, MaxRod)
 }
 
 // grade returns the grade of a valid rod for valid limits.

@@ -21,12 +21,16 @@ func landed() map[string]any {
 		"ValidRods": impl.ValidRods, "ThickAt": impl.ThickAt, "LengthWith": impl.LengthWith, "GradeOf": impl.GradeOf,
 		"CountGrades": impl.CountGrades, "LongestFirst": impl.LongestFirst, "MostAlike": impl.MostAlike,
 		"RodsBetween": impl.RodsBetween, "CutTip": impl.CutTip, "RodText": impl.RodText, "ReadRod": impl.ReadRod,
+
+		"ValidBeds": impl.ValidBeds, "YieldNow": impl.YieldNow, "YieldOfPlan": impl.YieldOfPlan, "BestCuts": impl.BestCuts,
+		"BestRhythm": impl.BestRhythm, "CutFor": impl.CutFor, "AfterYear": impl.AfterYear, "SameBeds": impl.SameBeds,
+		"SteadyNeed": impl.SteadyNeed,
 	}
 }
 
 func samples() map[reflect.Type][]any {
 	numbers := []any{}
-	for _, n := range []int64{math.MinInt64, math.MinInt64 + 1, -1000, -1, 0, 1, 2, 10, 11, 99, 100, 101, 300, 301, 500, 999, 1000, 3000, 3001, 1 << 62, math.MaxInt64} {
+	for _, n := range []int64{math.MinInt64, math.MinInt64 + 1, -1000, -1, 0, 1, 2, 3, 4, 10, 12, 13, 99, 100, 101, 300, 301, 500, 999, 1000, 3000, 3001, 80000, 100000, 100001, 1 << 62, math.MaxInt64} {
 		numbers = append(numbers, n)
 	}
 	texts := []any{}
@@ -46,27 +50,46 @@ func samples() map[reflect.Type][]any {
 	for _, l := range badLimits() {
 		limits = append(limits, l)
 	}
+	for _, cuts := range [][]int64{{0}, {0, 2}, {1, 2, 3}, {0, 11}, {1, 0}, {0, 1, 2, 3, 4, 5, 6, 7, 8, 9, 10, 11}} {
+		limits = append(limits, cuts)
+	}
+	beds := []any{}
+	manyBeds := []any{[]impl.Bed(nil), slices.Repeat([]impl.Bed{bed(1, 10, 30)}, 4), slices.Repeat([]impl.Bed{bed(0, 10, 30)}, 9), someBeds()[:5], someBeds()[:8]}
+	for _, b := range append(noBeds(), someBeds()[:14]...) {
+		beds = append(beds, b)
+		manyBeds = append(manyBeds, []impl.Bed{b}, []impl.Bed{bed(1, 10, 30), b, b})
+	}
 	return map[reflect.Type][]any{
+		reflect.TypeFor[impl.Bed](): beds, reflect.TypeFor[[]impl.Bed](): manyBeds,
 		reflect.TypeFor[int64](): numbers, reflect.TypeFor[string](): texts, reflect.TypeFor[impl.Rod](): rods,
 		reflect.TypeFor[[]impl.Rod](): lists, reflect.TypeFor[[]int64](): limits,
 	}
 }
 
-// spaced copies an argument; a slice gets unused capacity with values in it, which no function may change or tell.
+// spaced copies an argument; each slice in it gets unused capacity with values in it, which no function may change or tell.
 func spaced(v reflect.Value) reflect.Value {
-	if v.Kind() != reflect.Slice {
-		return v
+	out := reflect.New(v.Type()).Elem()
+	out.Set(v)
+	switch v.Kind() {
+	case reflect.Struct:
+		for i := range v.NumField() {
+			out.Field(i).Set(spaced(v.Field(i)))
+		}
+	case reflect.Slice:
+		n := v.Len()
+		out.Set(reflect.MakeSlice(v.Type(), n+3, n+3))
+		for i := range n {
+			out.Index(i).Set(spaced(v.Index(i)))
+		}
+		for i := n; i < n+3; i++ {
+			fill(out.Index(i), 250)
+		}
+		out.Set(out.Slice(0, n))
 	}
-	n := v.Len()
-	out := reflect.MakeSlice(v.Type(), n+3, n+3)
-	reflect.Copy(out, v)
-	for i := n; i < n+3; i++ {
-		fill(out.Index(i), 250)
-	}
-	return out.Slice(0, n)
+	return out
 }
 
-// fill stores a number into all parts of a value.
+// fill stores a number into all parts of a value, and into the unused capacity of its slices.
 func fill(v reflect.Value, n int64) {
 	switch v.Kind() {
 	case reflect.Int64:
@@ -78,46 +101,62 @@ func fill(v reflect.Value, n int64) {
 			fill(v.Field(i), n)
 		}
 	case reflect.Slice:
-		for i := range v.Len() {
-			fill(v.Index(i), n)
+		whole := v.Slice(0, v.Cap())
+		for i := range whole.Len() {
+			fill(whole.Index(i), n)
 		}
 	}
 }
 
-// overwrite fills all slices of a result, with their unused capacity.
+// overwrite fills all slices of a result.
 func overwrite(results []reflect.Value) {
 	for _, v := range results {
 		if v.Kind() == reflect.Slice {
-			fill(v.Slice(0, v.Cap()), 777)
+			fill(v, 777)
 		}
 	}
 }
 
 // written tells values with the unused capacity of slices.
-func written(values []reflect.Value) string {
-	whole := slices.Clone(values)
-	for k, v := range whole {
-		if v.Kind() == reflect.Slice {
-			whole[k] = v.Slice(0, v.Cap())
-		}
-	}
-	return told(whole)
-}
+func written(values []reflect.Value) string { return inWords(values, true) }
 
-// told tells values in Go's syntax; an empty slice and a nil one, which are equivalent, are told alike.
-func told(values []reflect.Value) string {
+// told tells values; an empty slice and a nil one, which are equivalent, are told alike.
+func told(values []reflect.Value) string { return inWords(values, false) }
+
+func inWords(values []reflect.Value, unused bool) string {
 	var b strings.Builder
 	for k, v := range values {
 		if k > 0 {
 			b.WriteString(", ")
 		}
-		if v.Kind() == reflect.Slice && v.Len() == 0 {
-			b.WriteString("none")
-		} else {
-			fmt.Fprintf(&b, "%#v", v)
-		}
+		tell(&b, v, unused)
 	}
 	return b.String()
+}
+
+func tell(b *strings.Builder, v reflect.Value, unused bool) {
+	switch v.Kind() {
+	case reflect.Struct:
+		b.WriteString("{")
+		for i := range v.NumField() {
+			tell(b, v.Field(i), unused)
+			b.WriteString(" ")
+		}
+		b.WriteString("}")
+	case reflect.Slice:
+		whole := v
+		if unused {
+			whole = v.Slice(0, v.Cap())
+		}
+		fmt.Fprintf(b, "%d[", v.Len())
+		for i := range whole.Len() {
+			tell(b, whole.Index(i), unused)
+			b.WriteString(" ")
+		}
+		b.WriteString("]")
+	default:
+		fmt.Fprintf(b, "%#v", v)
+	}
 }
 
 // combinations calls visit with each choice of one value per list.
