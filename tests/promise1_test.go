@@ -25,12 +25,16 @@ func landed() map[string]any {
 		"ValidBeds": impl.ValidBeds, "YieldNow": impl.YieldNow, "YieldOfPlan": impl.YieldOfPlan, "BestCuts": impl.BestCuts,
 		"BestRhythm": impl.BestRhythm, "CutFor": impl.CutFor, "AfterYear": impl.AfterYear, "SameBeds": impl.SameBeds,
 		"SteadyNeed": impl.SteadyNeed,
+
+		"ValidBatches": impl.ValidBatches, "SameBatches": impl.SameBatches, "InTank": impl.InTank, "SuppleAt": impl.SuppleAt,
+		"FirstTooMany": impl.FirstTooMany, "LatestStart": impl.LatestStart, "EarliestPlan": impl.EarliestPlan,
+		"SuppleHours": impl.SuppleHours, "BestHour": impl.BestHour,
 	}
 }
 
 func samples() map[reflect.Type][]any {
 	numbers := []any{}
-	for _, n := range []int64{math.MinInt64, math.MinInt64 + 1, -1000, -1, 0, 1, 2, 3, 4, 10, 12, 13, 99, 100, 101, 300, 301, 500, 999, 1000, 3000, 3001, 80000, 100000, 100001, 1 << 62, math.MaxInt64} {
+	for _, n := range []int64{math.MinInt64, math.MinInt64 + 1, -1000, -1, 0, 1, 2, 3, 4, 10, 12, 13, 99, 100, 101, 300, 301, 500, 501, 999, 1000, 3000, 3001, 10000, 10001, 80000, 100000, 100001, 1 << 62, math.MaxInt64} {
 		numbers = append(numbers, n)
 	}
 	texts := []any{}
@@ -59,8 +63,15 @@ func samples() map[reflect.Type][]any {
 		beds = append(beds, b)
 		manyBeds = append(manyBeds, []impl.Bed{b}, []impl.Bed{bed(1, 10, 30), b, b})
 	}
+	batches := []any{
+		[]impl.Batch(nil), slices.Repeat([]impl.Batch{batch(0, 10, 5, 4)}, 10), slices.Repeat([]impl.Batch{batch(0, 10, 5, 4)}, 11),
+		slices.Repeat([]impl.Batch{batch(5000, 500, 500, 100)}, 2), someBatches()[10:20],
+	}
+	for _, b := range append(noBatches(), someBatches()[:14]...) {
+		batches = append(batches, []impl.Batch{b}, []impl.Batch{batch(0, 10, 5, 4), b, b})
+	}
 	return map[reflect.Type][]any{
-		reflect.TypeFor[impl.Bed](): beds, reflect.TypeFor[[]impl.Bed](): manyBeds,
+		reflect.TypeFor[[]impl.Batch](): batches, reflect.TypeFor[impl.Bed](): beds, reflect.TypeFor[[]impl.Bed](): manyBeds,
 		reflect.TypeFor[int64](): numbers, reflect.TypeFor[string](): texts, reflect.TypeFor[impl.Rod](): rods,
 		reflect.TypeFor[[]impl.Rod](): lists, reflect.TypeFor[[]int64](): limits,
 	}
