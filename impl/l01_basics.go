@@ -96,6 +96,28 @@ func areIncreasing(numbers []int64, low, high int64) bool {
 	return true
 }
 
+// areValid reports whether list has at most so many values and all of them are valid.
+func areValid[T any](list []T, most int, isValid func(T) bool) bool {
+	if len(list) > most {
+		return false
+	}
+	for _, x := range list {
+		if !isValid(x) {
+			return false
+		}
+	}
+	return true
+}
+
+// indicesOf returns the indices of count values in ascending order.
+func indicesOf(count int) []int64 {
+	indices := make([]int64, count)
+	for i := range indices {
+		indices[i] = int64(i)
+	}
+	return indices
+}
+
 func isSmallLetter(r rune) bool { return 'a' <= r && r <= 'z' }
 
 func isDigit(r rune) bool { return '0' <= r && r <= '9' }

@@ -28,17 +28,7 @@ type Fraction struct {
 }
 
 // ValidRods reports whether list is valid.
-func ValidRods(list []Rod) bool {
-	if len(list) > MaxRods {
-		return false
-	}
-	for _, r := range list {
-		if !isRod(r) {
-			return false
-		}
-	}
-	return true
-}
+func ValidRods(list []Rod) bool { return areValid(list, MaxRods, isRod) }
 
 // ThickAt returns how thick a rod is at a distance from its butt.
 func ThickAt(r Rod, at int64) (Fraction, int64) {
@@ -100,10 +90,7 @@ func LongestFirst(list []Rod) ([]int64, int64) {
 	if !ValidRods(list) {
 		return nil, ErrInvalid
 	}
-	order := make([]int64, len(list))
-	for i := range order {
-		order[i] = int64(i)
-	}
+	order := indicesOf(len(list))
 	// sort.Slice is not stable, so the indices decide between rods of one length.
 	sort.Slice(order, func(i, k int) bool {
 		a, b := order[i], order[k]
