@@ -29,12 +29,16 @@ func landed() map[string]any {
 		"ValidBatches": impl.ValidBatches, "SameBatches": impl.SameBatches, "InTank": impl.InTank, "SuppleAt": impl.SuppleAt,
 		"FirstTooMany": impl.FirstTooMany, "LatestStart": impl.LatestStart, "EarliestPlan": impl.EarliestPlan,
 		"SuppleHours": impl.SuppleHours, "BestHour": impl.BestHour,
+
+		"ValidBunches": impl.ValidBunches, "SameBunches": impl.SameBunches, "AreaOf": impl.AreaOf, "RodsIn": impl.RodsIn,
+		"GirthFor": impl.GirthFor, "SortBunches": impl.SortBunches, "WeightOfLength": impl.WeightOfLength,
+		"FewestBunches": impl.FewestBunches, "FitCart": impl.FitCart, "BunchText": impl.BunchText,
 	}
 }
 
 func samples() map[reflect.Type][]any {
 	numbers := []any{}
-	for _, n := range []int64{math.MinInt64, math.MinInt64 + 1, -1000, -1, 0, 1, 2, 3, 4, 10, 12, 13, 99, 100, 101, 300, 301, 500, 501, 999, 1000, 3000, 3001, 10000, 10001, 80000, 100000, 100001, 1 << 62, math.MaxInt64} {
+	for _, n := range []int64{math.MinInt64, math.MinInt64 + 1, -1000, -1, 0, 1, 2, 3, 4, 10, 12, 13, 99, 100, 101, 300, 301, 500, 501, 999, 1000, 1200, 2000, 2001, 3000, 3001, 10000, 10001, 80000, 100000, 100001, 1000000, 1000001, 1 << 62, math.MaxInt64} {
 		numbers = append(numbers, n)
 	}
 	texts := []any{}
@@ -70,7 +74,14 @@ func samples() map[reflect.Type][]any {
 	for _, b := range append(noBatches(), someBatches()[:14]...) {
 		batches = append(batches, []impl.Batch{b}, []impl.Batch{batch(0, 10, 5, 4), b, b})
 	}
+	bunches := []any{}
+	manyBunches := []any{[]impl.Bunch(nil), someBunches()[:10], someBunches()[:11], someBunches()[10:40], slices.Repeat([]impl.Bunch{bunch(1200, 400, 900)}, 10), slices.Repeat([]impl.Bunch{bunch(1200, 400, 900)}, 31)}
+	for _, x := range append(noBunches(), someBunches()[:14]...) {
+		bunches = append(bunches, x)
+		manyBunches = append(manyBunches, []impl.Bunch{x}, []impl.Bunch{bunch(1200, 400, 900), x, bunch(900, 300, 700), x})
+	}
 	return map[reflect.Type][]any{
+		reflect.TypeFor[impl.Bunch](): bunches, reflect.TypeFor[[]impl.Bunch](): manyBunches,
 		reflect.TypeFor[[]impl.Batch](): batches, reflect.TypeFor[impl.Bed](): beds, reflect.TypeFor[[]impl.Bed](): manyBeds,
 		reflect.TypeFor[int64](): numbers, reflect.TypeFor[string](): texts, reflect.TypeFor[impl.Rod](): rods,
 		reflect.TypeFor[[]impl.Rod](): lists, reflect.TypeFor[[]int64](): limits,
