@@ -33,18 +33,23 @@ func landed() map[string]any {
 		"ValidBunches": impl.ValidBunches, "SameBunches": impl.SameBunches, "AreaOf": impl.AreaOf, "RodsIn": impl.RodsIn,
 		"GirthFor": impl.GirthFor, "SortBunches": impl.SortBunches, "WeightOfLength": impl.WeightOfLength,
 		"FewestBunches": impl.FewestBunches, "FitCart": impl.FitCart, "BunchText": impl.BunchText,
+
+		"ValidStroke": impl.ValidStroke, "RoundOf": impl.RoundOf, "LongestFloat": impl.LongestFloat, "BeginsAgain": impl.BeginsAgain,
+		"LooseStakes": impl.LooseStakes, "IsSound": impl.IsSound, "StakesToAdd": impl.StakesToAdd, "LongestStack": impl.LongestStack,
+		"OtherSide": impl.OtherSide, "SoundStakes": impl.SoundStakes,
 	}
 }
 
 func samples() map[reflect.Type][]any {
 	numbers := []any{}
-	for _, n := range []int64{math.MinInt64, math.MinInt64 + 1, -1000, -1, 0, 1, 2, 3, 4, 10, 12, 13, 99, 100, 101, 300, 301, 500, 501, 999, 1000, 1200, 2000, 2001, 3000, 3001, 10000, 10001, 80000, 100000, 100001, 1000000, 1000001, 1 << 62, math.MaxInt64} {
+	for _, n := range []int64{math.MinInt64, math.MinInt64 + 1, -1000, -1, 0, 1, 2, 3, 4, 10, 12, 13, 60, 61, 99, 100, 101, 300, 301, 500, 501, 999, 1000, 1200, 2000, 2001, 3000, 3001, 10000, 10001, 80000, 100000, 100001, 1000000, 1000001, 1 << 62, math.MaxInt64} {
 		numbers = append(numbers, n)
 	}
 	texts := []any{}
 	for _, s := range []string{
 		"", " ", "   ", "a", "rod-3", "Rod", "a b  c ", "0", "-0", "42", "-42", "007", "999999999999999999", "9223372036854775808", "-9223372036854775808",
 		"1000 mm 80-30", "1000 mm 80--30", " mm -", "1000 mm", "99 mm 80-30", "\xff \xfe", "ä ö", "\x00", strings.Repeat("9 ", 2000),
+		"F", "B", "FB", "FBF", "FFBB", "fb", "FB ", "FFFFFFFFFFFF", "FFFFFFFFFFFB", "BBBBBBBBBBBBB",
 	} {
 		texts = append(texts, s)
 	}
