@@ -37,6 +37,10 @@ func landed() map[string]any {
 		"ValidStroke": impl.ValidStroke, "RoundOf": impl.RoundOf, "LongestFloat": impl.LongestFloat, "BeginsAgain": impl.BeginsAgain,
 		"LooseStakes": impl.LooseStakes, "IsSound": impl.IsSound, "StakesToAdd": impl.StakesToAdd, "LongestStack": impl.LongestStack,
 		"OtherSide": impl.OtherSide, "SoundStakes": impl.SoundStakes,
+
+		"ValidBase": impl.ValidBase, "EndsOf": impl.EndsOf, "StakesFrom": impl.StakesFrom, "RingsOf": impl.RingsOf,
+		"LengthOfRing": impl.LengthOfRing, "WeaverFor": impl.WeaverFor, "BaseFor": impl.BaseFor, "GapsAt": impl.GapsAt,
+		"FirstOpen": impl.FirstOpen, "BaseText": impl.BaseText,
 	}
 }
 
@@ -85,7 +89,12 @@ func samples() map[reflect.Type][]any {
 		bunches = append(bunches, x)
 		manyBunches = append(manyBunches, []impl.Bunch{x}, []impl.Bunch{bunch(1200, 400, 900), x, bunch(900, 300, 700), x})
 	}
+	bases := []any{}
+	for _, b := range append(noBases(), someBases()[:30]...) {
+		bases = append(bases, b)
+	}
 	return map[reflect.Type][]any{
+		reflect.TypeFor[impl.Base]():  bases,
 		reflect.TypeFor[impl.Bunch](): bunches, reflect.TypeFor[[]impl.Bunch](): manyBunches,
 		reflect.TypeFor[[]impl.Batch](): batches, reflect.TypeFor[impl.Bed](): beds, reflect.TypeFor[[]impl.Bed](): manyBeds,
 		reflect.TypeFor[int64](): numbers, reflect.TypeFor[string](): texts, reflect.TypeFor[impl.Rod](): rods,
