@@ -41,12 +41,16 @@ func landed() map[string]any {
 		"ValidBase": impl.ValidBase, "EndsOf": impl.EndsOf, "StakesFrom": impl.StakesFrom, "RingsOf": impl.RingsOf,
 		"LengthOfRing": impl.LengthOfRing, "WeaverFor": impl.WeaverFor, "BaseFor": impl.BaseFor, "GapsAt": impl.GapsAt,
 		"FirstOpen": impl.FirstOpen, "BaseText": impl.BaseText,
+
+		"ValidShape": impl.ValidShape, "SpacingAt": impl.SpacingAt, "StakesRange": impl.StakesRange, "StakePlan": impl.StakePlan,
+		"ChangesOf": impl.ChangesOf, "OneNumber": impl.OneNumber, "WidestLevel": impl.WidestLevel, "Turned": impl.Turned,
+		"LevelsBetween": impl.LevelsBetween,
 	}
 }
 
 func samples() map[reflect.Type][]any {
 	numbers := []any{}
-	for _, n := range []int64{math.MinInt64, math.MinInt64 + 1, -1000, -1, 0, 1, 2, 3, 4, 10, 12, 13, 60, 61, 99, 100, 101, 300, 301, 500, 501, 999, 1000, 1200, 2000, 2001, 3000, 3001, 10000, 10001, 80000, 100000, 100001, 1000000, 1000001, 1 << 62, math.MaxInt64} {
+	for _, n := range []int64{math.MinInt64, math.MinInt64 + 1, -1000, -1, 0, 1, 2, 3, 4, 10, 12, 13, 25, 40, 60, 61, 99, 100, 101, 200, 201, 300, 301, 500, 501, 999, 1000, 1200, 2000, 2001, 3000, 3001, 10000, 10001, 80000, 100000, 100001, 1000000, 1000001, 1 << 62, math.MaxInt64} {
 		numbers = append(numbers, n)
 	}
 	texts := []any{}
@@ -69,6 +73,12 @@ func samples() map[reflect.Type][]any {
 	}
 	for _, cuts := range [][]int64{{0}, {0, 2}, {1, 2, 3}, {0, 11}, {1, 0}, {0, 1, 2, 3, 4, 5, 6, 7, 8, 9, 10, 11}} {
 		limits = append(limits, cuts)
+	}
+	for _, levels := range [][]int64{
+		{600}, {600, 700}, {600, 1200}, {600, 2000}, {300, 360, 420}, {24, 30}, {3, 60}, {1, 5000}, {5001}, {600, 1000, 1400, 1000, 600, 650, 700, 800, 900, 1000, 1100, 1200},
+		slices.Repeat([]int64{60}, 12), slices.Repeat([]int64{60}, 13),
+	} {
+		limits = append(limits, levels)
 	}
 	beds := []any{}
 	manyBeds := []any{[]impl.Bed(nil), slices.Repeat([]impl.Bed{bed(1, 10, 30)}, 4), slices.Repeat([]impl.Bed{bed(0, 10, 30)}, 9), someBeds()[:5], someBeds()[:8]}
