@@ -45,6 +45,10 @@ func landed() map[string]any {
 		"ValidShape": impl.ValidShape, "SpacingAt": impl.SpacingAt, "StakesRange": impl.StakesRange, "StakePlan": impl.StakePlan,
 		"ChangesOf": impl.ChangesOf, "OneNumber": impl.OneNumber, "WidestLevel": impl.WidestLevel, "Turned": impl.Turned,
 		"LevelsBetween": impl.LevelsBetween,
+
+		"ValidTwill": impl.ValidTwill, "SameTwill": impl.SameTwill, "RepeatOf": impl.RepeatOf, "FaceOf": impl.FaceOf,
+		"FloatsOf": impl.FloatsOf, "ShareFront": impl.ShareFront, "BackOf": impl.BackOf, "IsPlain": impl.IsPlain,
+		"DraftFor": impl.DraftFor, "SameFace": impl.SameFace, "TwillText": impl.TwillText,
 	}
 }
 
@@ -103,8 +107,12 @@ func samples() map[reflect.Type][]any {
 	for _, b := range append(noBases(), someBases()[:30]...) {
 		bases = append(bases, b)
 	}
+	twills := []any{}
+	for _, x := range append(noTwills(), someTwills()...) {
+		twills = append(twills, x)
+	}
 	return map[reflect.Type][]any{
-		reflect.TypeFor[impl.Base]():  bases,
+		reflect.TypeFor[impl.Base](): bases, reflect.TypeFor[impl.Twill](): twills,
 		reflect.TypeFor[impl.Bunch](): bunches, reflect.TypeFor[[]impl.Bunch](): manyBunches,
 		reflect.TypeFor[[]impl.Batch](): batches, reflect.TypeFor[impl.Bed](): beds, reflect.TypeFor[[]impl.Bed](): manyBeds,
 		reflect.TypeFor[int64](): numbers, reflect.TypeFor[string](): texts, reflect.TypeFor[impl.Rod](): rods,
@@ -154,11 +162,16 @@ func fill(v reflect.Value, n int64) {
 	}
 }
 
-// overwrite fills all slices of a result.
+// overwrite fills all slices of results, those inside structs too.
 func overwrite(results []reflect.Value) {
 	for _, v := range results {
-		if v.Kind() == reflect.Slice {
+		switch v.Kind() {
+		case reflect.Slice:
 			fill(v, 777)
+		case reflect.Struct:
+			for i := range v.NumField() {
+				overwrite([]reflect.Value{v.Field(i)})
+			}
 		}
 	}
 }
