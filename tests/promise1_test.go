@@ -49,6 +49,10 @@ func landed() map[string]any {
 		"ValidTwill": impl.ValidTwill, "SameTwill": impl.SameTwill, "RepeatOf": impl.RepeatOf, "FaceOf": impl.FaceOf,
 		"FloatsOf": impl.FloatsOf, "ShareFront": impl.ShareFront, "BackOf": impl.BackOf, "IsPlain": impl.IsPlain,
 		"DraftFor": impl.DraftFor, "SameFace": impl.SameFace, "TwillText": impl.TwillText,
+
+		"ValidLaid": impl.ValidLaid, "JoinsOf": impl.JoinsOf, "RoundsLaid": impl.RoundsLaid, "FirstAbove": impl.FirstAbove,
+		"OrderRods": impl.OrderRods, "CountAbove": impl.CountAbove, "FewestAbove": impl.FewestAbove,
+		"StakesForRods": impl.StakesForRods,
 	}
 }
 
@@ -83,6 +87,11 @@ func samples() map[reflect.Type][]any {
 		slices.Repeat([]int64{60}, 12), slices.Repeat([]int64{60}, 13),
 	} {
 		limits = append(limits, levels)
+	}
+	for _, reaches := range [][]int64{
+		{5, 10, 8}, {10, 10, 10}, {200, 200}, {5, 201, 8}, {10, 3, 13, 25, 12}, slices.Repeat([]int64{200}, 7), {10, 10, 3, 13, 25, 10, 1}, slices.Repeat([]int64{10}, 8),
+	} {
+		limits = append(limits, reaches)
 	}
 	beds := []any{}
 	manyBeds := []any{[]impl.Bed(nil), slices.Repeat([]impl.Bed{bed(1, 10, 30)}, 4), slices.Repeat([]impl.Bed{bed(0, 10, 30)}, 9), someBeds()[:5], someBeds()[:8]}
