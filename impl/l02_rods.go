@@ -221,3 +221,6 @@ func lowest(num, den int64) Fraction {
 	}
 	return Fraction{Num: num / a, Den: den / a}
 }
+
+// quotientUp returns num / den, rounded up, where num is not negative and den is positive.
+func quotientUp(num, den int64) int64 { return (num + den - 1) / den }

@@ -53,12 +53,16 @@ func landed() map[string]any {
 		"ValidLaid": impl.ValidLaid, "JoinsOf": impl.JoinsOf, "RoundsLaid": impl.RoundsLaid, "FirstAbove": impl.FirstAbove,
 		"OrderRods": impl.OrderRods, "CountAbove": impl.CountAbove, "FewestAbove": impl.FewestAbove,
 		"StakesForRods": impl.StakesForRods,
+
+		"ValidBends": impl.ValidBends, "EndOfBend": impl.EndOfBend, "CoversOf": impl.CoversOf, "IsLocked": impl.IsLocked,
+		"DrawnOut": impl.DrawnOut, "FirstWord": impl.FirstWord, "SameBorder": impl.SameBorder, "ListWords": impl.ListWords,
+		"LockedWords": impl.LockedWords, "RodForBorder": impl.RodForBorder,
 	}
 }
 
 func samples() map[reflect.Type][]any {
 	numbers := []any{}
-	for _, n := range []int64{math.MinInt64, math.MinInt64 + 1, -1000, -1, 0, 1, 2, 3, 4, 10, 12, 13, 25, 40, 60, 61, 99, 100, 101, 200, 201, 300, 301, 500, 501, 999, 1000, 1200, 2000, 2001, 3000, 3001, 10000, 10001, 80000, 100000, 100001, 1000000, 1000001, 1 << 62, math.MaxInt64} {
+	for _, n := range []int64{math.MinInt64, math.MinInt64 + 1, -1000, -1, 0, 1, 2, 3, 4, 8, 9, 10, 12, 13, 25, 39, 40, 41, 60, 61, 99, 100, 101, 200, 201, 300, 301, 500, 501, 999, 1000, 1200, 2000, 2001, 3000, 3001, 5000, 5001, 10000, 10001, 80000, 100000, 100001, 1000000, 1000001, 1 << 62, math.MaxInt64} {
 		numbers = append(numbers, n)
 	}
 	texts := []any{}
@@ -66,6 +70,7 @@ func samples() map[reflect.Type][]any {
 		"", " ", "   ", "a", "rod-3", "Rod", "a b  c ", "0", "-0", "42", "-42", "007", "999999999999999999", "9223372036854775808", "-9223372036854775808",
 		"1000 mm 80-30", "1000 mm 80--30", " mm -", "1000 mm", "99 mm 80-30", "\xff \xfe", "ä ö", "\x00", strings.Repeat("9 ", 2000),
 		"F", "B", "FB", "FBF", "FFBB", "fb", "FB ", "FFFFFFFFFFFF", "FFFFFFFFFFFB", "BBBBBBBBBBBBB",
+		"b", "f", "bf", "fb", "bbf", "fbfb", "fffb", "bffbbfff", "bbbbbbbb", "fffffffff", "bf ", "bx",
 	} {
 		texts = append(texts, s)
 	}
