@@ -3,6 +3,7 @@ package tests
 import (
 	"fmt"
 	"math"
+	"math/big"
 	"reflect"
 	"slices"
 	"strings"
@@ -11,7 +12,7 @@ import (
 	"loop.example/g01064/impl"
 )
 
-// landed names the functions of the chapters that have landed; TestPurity calls each of them with all combinations of
+// landed names the functions of the chapters that have landed; TestPurity calls each of them with combinations of
 // the values that samples has for the types of its parameters.
 func landed() map[string]any {
 	return map[string]any{
@@ -57,6 +58,10 @@ func landed() map[string]any {
 		"ValidBends": impl.ValidBends, "EndOfBend": impl.EndOfBend, "CoversOf": impl.CoversOf, "IsLocked": impl.IsLocked,
 		"DrawnOut": impl.DrawnOut, "FirstWord": impl.FirstWord, "SameBorder": impl.SameBorder, "ListWords": impl.ListWords,
 		"LockedWords": impl.LockedWords, "RodForBorder": impl.RodForBorder,
+
+		"ValidWord": impl.ValidWord, "RowOf": impl.RowOf, "RowsAgain": impl.RowsAgain, "SpiralOf": impl.SpiralOf,
+		"CountColour": impl.CountColour, "WordFor": impl.WordFor, "ShortestWord": impl.ShortestWord, "SameRows": impl.SameRows,
+		"StripesWith": impl.StripesWith,
 	}
 }
 
@@ -71,6 +76,7 @@ func samples() map[reflect.Type][]any {
 		"1000 mm 80-30", "1000 mm 80--30", " mm -", "1000 mm", "99 mm 80-30", "\xff \xfe", "ä ö", "\x00", strings.Repeat("9 ", 2000),
 		"F", "B", "FB", "FBF", "FFBB", "fb", "FB ", "FFFFFFFFFFFF", "FFFFFFFFFFFB", "BBBBBBBBBBBBB",
 		"b", "f", "bf", "fb", "bbf", "fbfb", "fffb", "bffbbfff", "bbbbbbbb", "fffffffff", "bf ", "bx",
+		"ab", "abc", "abab", "z", "aaaaaaaaaaaa", "abcdefghijkl", "abcdefghijklm", "aB", "a?",
 	} {
 		texts = append(texts, s)
 	}
@@ -125,7 +131,12 @@ func samples() map[reflect.Type][]any {
 	for _, x := range append(noTwills(), someTwills()...) {
 		twills = append(twills, x)
 	}
+	rows := []any{}
+	for _, r := range append(noRows(), someRows()[:30]...) {
+		rows = append(rows, r)
+	}
 	return map[reflect.Type][]any{
+		reflect.TypeFor[[]string]():  rows,
 		reflect.TypeFor[impl.Base](): bases, reflect.TypeFor[impl.Twill](): twills,
 		reflect.TypeFor[impl.Bunch](): bunches, reflect.TypeFor[[]impl.Bunch](): manyBunches,
 		reflect.TypeFor[[]impl.Batch](): batches, reflect.TypeFor[impl.Bed](): beds, reflect.TypeFor[[]impl.Bed](): manyBeds,
@@ -232,21 +243,29 @@ func tell(b *strings.Builder, v reflect.Value, unused bool) {
 	}
 }
 
-// combinations calls visit with each choice of one value per list.
+// mostCalls is up to how many combinations of arguments a function is called with all of them.
+const mostCalls = 40000
+
+// combinations calls visit with choices of one value per list: with each one or, if there are too many, with some that are spread over all of them.
 func combinations(lists [][]any, visit func([]reflect.Value)) {
-	choice := make([]reflect.Value, len(lists))
-	var next func(k int)
-	next = func(k int) {
-		if k == len(lists) {
-			visit(choice)
-			return
-		}
-		for _, v := range lists[k] {
-			choice[k] = reflect.ValueOf(v)
-			next(k + 1)
-		}
+	total := 1
+	for _, list := range lists {
+		total *= len(list)
 	}
-	next(0)
+	stride := total/mostCalls + 1
+	// A stride without a common divisor reaches all values of each list.
+	for new(big.Int).GCD(nil, nil, big.NewInt(int64(stride)), big.NewInt(int64(total))).Int64() > 1 {
+		stride++
+	}
+	for n := 0; n < total; n += stride {
+		choice := make([]reflect.Value, len(lists))
+		rest := n
+		for k, list := range lists {
+			choice[k] = reflect.ValueOf(list[rest%len(list)])
+			rest /= len(list)
+		}
+		visit(choice)
+	}
 }
 
 // argumentsOf returns the samples for each parameter of a function.
@@ -317,8 +336,7 @@ func TestOrderOfCalls(t *testing.T) {
 	for _, function := range landed() {
 		f := reflect.ValueOf(function)
 		combinations(argumentsOf(t, f.Type(), all), func(choice []reflect.Value) {
-			args := slices.Clone(choice)
-			calls = append(calls, func() string { return told(f.Call(args)) })
+			calls = append(calls, func() string { return told(f.Call(choice)) })
 		})
 	}
 	forwards := make([]string, len(calls))
